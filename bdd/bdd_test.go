@@ -199,7 +199,33 @@ func (m *model) calls(f, g, h, i, j int) {
 	m.holds(m.exists(x, i), n, e)
 	n, e = m.arena.Swap(f, i, j)
 	m.holds(m.swap(x, i, j), n, e)
+	m.node(i, f, g)
 	m.reads(f)
+}
+
+// hangsBehind tells whether x hangs on variables behind i alone.
+func (m *model) hangsBehind(x table, i int) bool {
+	for j := range i + 1 {
+		if m.fix(x, j, false) != m.fix(x, j, true) {
+			return false
+		}
+	}
+	return true
+}
+
+// node does Node, which takes only what hangs on variables behind i.
+func (m *model) node(i, low, high int) {
+	m.t.Helper()
+	x, y, size := m.tables[low], m.tables[high], m.arena.Size()
+	f, e := m.arena.Node(i, low, high)
+	if m.hangsBehind(x, i) && m.hangsBehind(y, i) {
+		v := m.variable(i)
+		m.holds(x&^v|y&v, f, e)
+		return
+	}
+	if f != 0 || e != api.ErrArg || m.arena.Size() != size {
+		m.t.Fatal("Node", i, low, high, f, e, m.arena.Size(), size)
+	}
 }
 
 // P4, P5: all functions of one and of two variables, with each other.
@@ -323,7 +349,7 @@ func TestNewBounds(t *testing.T) {
 		for _, most := range numbers {
 			good := vars >= 1 && vars <= 16 && most >= 2 && most <= 40000
 			a, e := bdd.New(vars, most)
-			if good && (e != api.OK || a == nil || a.Size() != 2) {
+			if good && (e != api.OK || a == nil || a.Size() != 2 || a.Vars() != vars) {
 				t.Error("New", vars, most, e)
 			}
 			if !good && (e != api.ErrArg || a != nil) {
@@ -364,6 +390,10 @@ func TestWrongArguments(t *testing.T) {
 			refuses("Or", n, e)
 			n, e = a.Or(1, f)
 			refuses("Or", n, e)
+			n, e = a.Node(0, f, 0)
+			refuses("Node", n, e)
+			n, e = a.Node(0, 0, f)
+			refuses("Node", n, e)
 			n, e = a.Exists(f, 0)
 			refuses("Exists", n, e)
 			n, e = a.Swap(f, 0, 0)
@@ -381,6 +411,8 @@ func TestWrongArguments(t *testing.T) {
 		for _, i := range []int{math.MinInt, -1, vars, vars + 1, 17, 64, math.MaxInt} {
 			n, e := a.Var(i)
 			refuses("Var", n, e)
+			n, e = a.Node(i, 1, 1)
+			refuses("Node", n, e)
 			n, e = a.Exists(2, i)
 			refuses("Exists", n, e)
 			n, e = a.Swap(2, i, 0)
@@ -406,8 +438,8 @@ func TestWrongArguments(t *testing.T) {
 // P1: an arena that New didn't make has nothing, and answers.
 func TestZeroArena(t *testing.T) {
 	a := new(bdd.Arena)
-	if a.Size() != 0 {
-		t.Error(a.Size())
+	if a.Size() != 0 || a.Vars() != 0 {
+		t.Error(a.Size(), a.Vars())
 	}
 	if _, e := a.Var(0); e != api.ErrArg {
 		t.Error(e)

@@ -43,7 +43,7 @@ func (b *builder) numberOf(n node) int {
 	}
 	if len(a.nodes) >= a.most {
 		b.full = true
-		return never
+		return Never
 	}
 	f := len(a.nodes)
 	a.nodes = append(a.nodes, n)
@@ -68,10 +68,10 @@ func (b *builder) part(f, variable int, value bool) int {
 func (b *builder) choose(c choice) int {
 	switch {
 	case b.full:
-		return never
-	case c.when == always, c.yes == c.no:
+		return Never
+	case c.when == Always, c.yes == c.no:
 		return c.yes
-	case c.when == never:
+	case c.when == Never:
 		return c.no
 	}
 	if f, ok := b.chosen[c]; ok {
@@ -97,11 +97,11 @@ func (b *builder) exists(f, variable int) int {
 	n := b.arena.nodes[f]
 	switch {
 	case b.full:
-		return never
+		return Never
 	case n.variable > variable:
 		return f
 	case n.variable == variable:
-		return b.choose(choice{n.low, always, n.high})
+		return b.choose(choice{n.low, Always, n.high})
 	}
 	if g, ok := b.walked[f]; ok {
 		return g
@@ -118,7 +118,7 @@ func (b *builder) swap(f, early, late int) int {
 	n := b.arena.nodes[f]
 	switch {
 	case b.full:
-		return never
+		return Never
 	case n.variable > late:
 		return f
 	}
@@ -142,7 +142,7 @@ func (b *builder) swap(f, early, late int) int {
 
 func (b *builder) blend(x mix, late int) int {
 	if b.full {
-		return never
+		return Never
 	}
 	if f, ok := b.blended[x]; ok {
 		return f

@@ -6,6 +6,7 @@ import (
 	"strings"
 
 	"wireward/api"
+	"wireward/number"
 )
 
 // How many codes there are to one number of a part: the parts of a code stand
@@ -87,23 +88,7 @@ func parseEnd(s string) (addr, port int, ok bool) {
 	if !ok {
 		return 0, 0, false
 	}
-	addr, okAddr := parseNumber(a)
-	port, okPort := parseNumber(b)
+	addr, okAddr := number.Parse(a)
+	port, okPort := number.Parse(b)
 	return addr, port, okAddr && okPort
-}
-
-// parseNumber is not strconv.Atoi, which takes signs and noughts ahead, too.
-func parseNumber(s string) (int, bool) {
-	const mostDigits = 4
-	if s == "" || len(s) > mostDigits || len(s) > 1 && s[0] == '0' {
-		return 0, false
-	}
-	n := 0
-	for i := range len(s) {
-		if s[i] < '0' || s[i] > '9' {
-			return 0, false
-		}
-		n = 10*n + int(s[i]-'0')
-	}
-	return n, true
 }
