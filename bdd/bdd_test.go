@@ -275,6 +275,63 @@ func TestAnyCalls(t *testing.T) {
 	}
 }
 
+// take takes every function of another model's arena, the greatest first.
+func (m *model) take(from *model) {
+	m.t.Helper()
+	sizes := [2]int{m.arena.Size(), from.arena.Size()}
+	for f := len(from.tables) - 1; f >= 0; f-- {
+		g, e := m.arena.Take(from.arena, f)
+		if from.vars > m.vars {
+			if g != 0 || e != api.ErrArg || m.arena.Size() != sizes[0] {
+				m.t.Fatal("Take of more variables", g, e, m.arena.Size())
+			}
+			continue
+		}
+		x := m.where(func(b int) bool { return from.tables[f].at(b >> (m.vars - from.vars)) })
+		m.holds(x, g, e)
+	}
+	if from.arena.Size() != sizes[1] {
+		m.t.Fatal("Take changed the arena it took from", from.arena.Size(), sizes[1])
+	}
+}
+
+// grow does some calls, so that there are functions.
+func (m *model) grow(r *rand.Rand, calls int) {
+	for range calls {
+		pick := func() int { return r.Intn(len(m.tables)) }
+		m.calls(pick(), pick(), pick(), r.Intn(m.vars), r.Intn(m.vars))
+	}
+}
+
+// Functions of another arena, of fewer, as many and more variables, with room
+// for them and without.
+func TestTake(t *testing.T) {
+	r := rand.New(rand.NewSource(6))
+	for round := range 400 {
+		from := newModel(t, 1+r.Intn(5), 60)
+		from.grow(r, 8)
+		most := 2 + r.Intn(40)
+		if round%4 == 0 {
+			most = api.MaxNodes
+		}
+		m := newModel(t, 1+r.Intn(6), most)
+		m.grow(r, r.Intn(4))
+		m.take(from)
+	}
+}
+
+// An arena has what it takes of itself.
+func TestTakeOfItself(t *testing.T) {
+	m := newModel(t, 4, 40)
+	m.grow(rand.New(rand.NewSource(8)), 10)
+	size := m.arena.Size()
+	for f := range m.tables {
+		if g, e := m.arena.Take(m.arena, f); g != f || e != api.OK || m.arena.Size() != size {
+			t.Error(f, g, e, m.arena.Size())
+		}
+	}
+}
+
 // P4: for each room of an arena, what is told if there is no more.
 func TestFull(t *testing.T) {
 	for most := 2; most <= 12; most++ {
@@ -398,6 +455,8 @@ func TestWrongArguments(t *testing.T) {
 			refuses("Exists", n, e)
 			n, e = a.Swap(f, 0, 0)
 			refuses("Swap", n, e)
+			n, e = a.Take(a, f)
+			refuses("Take", n, e)
 			n, e = a.Count(f)
 			refuses("Count", n, e)
 			n, ok, e := a.One(f)
@@ -451,6 +510,9 @@ func TestZeroArena(t *testing.T) {
 		t.Error(e)
 	}
 	if _, e := a.Swap(0, 0, 0); e != api.ErrArg {
+		t.Error(e)
+	}
+	if _, e := a.Take(a, 0); e != api.ErrArg {
 		t.Error(e)
 	}
 	if _, e := a.Eval(0, 0); e != api.ErrArg {

@@ -20,7 +20,7 @@ type builder struct {
 	full    bool
 	chosen  map[choice]int
 	blended map[mix]int
-	walked  map[int]int // by the function at which exists or swap came by
+	walked  map[int]int // by the function at which exists, swap or take came by
 }
 
 // answer is what a call tells of the function it built.
@@ -167,4 +167,23 @@ func (b *builder) partOfMix(x mix, variable int, value bool) mix {
 		high:  b.part(x.high, variable, value),
 		value: x.value,
 	}
+}
+
+// take is function f of another arena.
+func (b *builder) take(from *Arena, f int) int {
+	switch {
+	case b.full:
+		return Never
+	case f <= Always:
+		return f
+	}
+	if g, ok := b.walked[f]; ok {
+		return g
+	}
+	n := from.nodes[f]
+	low := b.take(from, n.low)
+	high := b.take(from, n.high)
+	g := b.numberOf(node{n.variable, low, high})
+	b.walked[f] = g
+	return g
 }
