@@ -572,6 +572,57 @@ func TestPeerOfAnyNet(t *testing.T) {
 	}
 }
 
+// HasPlace is Check's way to look at the ends of links: of any net.
+func TestHasPlace(t *testing.T) {
+	n := one()
+	n.Devices = append(n.Devices, api.Device{Kind: 6}, api.Device{})
+	for _, device := range wild {
+		for _, port := range wild {
+			at := api.Place{Device: device, Port: port}
+			want := device >= 0 && device < len(n.Devices) && port >= 0 && port < ports(n.Devices[device].Kind)
+			if is := net.HasPlace(n, at); is != want {
+				t.Error(at, is)
+			}
+			if net.HasPlace(api.Net{}, at) {
+				t.Error("empty", at)
+			}
+		}
+	}
+}
+
+// P2: a copy is the same net, and shares no memory with it, spare room
+// included.
+func TestCopy(t *testing.T) {
+	r := rand.New(rand.NewSource(6))
+	for i := range 300 {
+		n := anyNet(r, i%11)
+		if i%4 == 0 {
+			spoil(r, &n)
+		}
+		was := withRoom(n)
+		c := net.Copy(n)
+		if !same(n, c) {
+			t.Fatal(c, n)
+		}
+		c.Devices, c.Links = c.Devices[:cap(c.Devices)], c.Links[:cap(c.Links)]
+		for j, d := range c.Devices {
+			wipe(d.Backs)
+			wipe(d.Rules)
+			wipe(d.Routes)
+			c.Devices[j] = api.Device{Name: "other"}
+		}
+		wipe(c.Links)
+		if is := withRoom(n); !reflect.DeepEqual(is, was) {
+			t.Fatal("changed", is, was)
+		}
+	}
+	if c := net.Copy(api.Net{}); !same(c, api.Net{}) {
+		t.Error(c)
+	}
+}
+
+func wipe[T any](l []T) { clear(l[:cap(l)]) }
+
 // P2: nets, and the room behind their lists, stay as they are.
 func TestNetsStay(t *testing.T) {
 	r := rand.New(rand.NewSource(3))
