@@ -181,6 +181,19 @@ func (m *model) reads(f int) {
 	}
 }
 
+// differs checks Differ of two functions.
+func (m *model) differs(f, g int) {
+	m.t.Helper()
+	apart, size := m.tables[f]^m.tables[g], m.arena.Size()
+	least := 0
+	if apart != 0 {
+		least = bits.TrailingZeros64(uint64(apart))
+	}
+	if b, ok, e := m.arena.Differ(f, g); e != api.OK || b != least || ok != (apart != 0) || m.arena.Size() != size {
+		m.t.Fatal("Differ", m.tables[f], m.tables[g], b, ok, e, m.arena.Size(), size)
+	}
+}
+
 // calls does every call with functions f, g, h and variables i, j.
 func (m *model) calls(f, g, h, i, j int) {
 	m.t.Helper()
@@ -201,6 +214,7 @@ func (m *model) calls(f, g, h, i, j int) {
 	m.holds(m.swap(x, i, j), n, e)
 	m.node(i, f, g)
 	m.reads(f)
+	m.differs(f, g)
 }
 
 // hangsBehind tells whether x hangs on variables behind i alone.
@@ -356,6 +370,9 @@ func TestFull(t *testing.T) {
 		// What is there can be asked for, in a full arena too.
 		for f := range m.tables {
 			m.reads(f)
+			for g := range m.tables {
+				m.differs(f, g)
+			}
 			g, e := m.arena.Or(f, f)
 			m.holds(m.tables[f], g, e)
 			g, e = m.arena.And(f, 1)
@@ -376,6 +393,9 @@ func TestLeastArena(t *testing.T) {
 			}
 			if n, e := a.Or(f, g); n != f|g || e != api.OK {
 				t.Error("Or", f, g, n, e)
+			}
+			if b, ok, e := a.Differ(f, g); b != 0 || ok != (f != g) || e != api.OK {
+				t.Error("Differ", f, g, b, ok, e)
 			}
 		}
 		if n, e := a.Not(f); n != 1-f || e != api.OK {
@@ -466,6 +486,13 @@ func TestWrongArguments(t *testing.T) {
 			if ok || is {
 				t.Error("One, Eval", ok, is)
 			}
+			for _, both := range [][2]int{{f, 0}, {1, f}, {f, 2}, {f, f}} {
+				n, ok, e := a.Differ(both[0], both[1])
+				refuses("Differ", n, e)
+				if ok {
+					t.Error("Differ", both)
+				}
+			}
 		}
 		for _, i := range []int{math.MinInt, -1, vars, vars + 1, 17, 64, math.MaxInt} {
 			n, e := a.Var(i)
@@ -522,6 +549,9 @@ func TestZeroArena(t *testing.T) {
 		t.Error(e)
 	}
 	if _, _, e := a.One(0); e != api.ErrArg {
+		t.Error(e)
+	}
+	if _, _, e := a.Differ(0, 0); e != api.ErrArg {
 		t.Error(e)
 	}
 }
@@ -599,8 +629,11 @@ func TestGreat(t *testing.T) {
 		}
 		return is
 	}
-	count := 0
+	count, apart := 0, -1
 	for b := range 1 << vars {
+		if apart < 0 && eval(turned, b) != eval(second, b) {
+			apart = b
+		}
 		if eval(both, b) != (eval(great, b) && eval(second, b)) {
 			t.Fatal("And", b)
 		}
@@ -617,6 +650,9 @@ func TestGreat(t *testing.T) {
 	}
 	if n, e := a.Count(great); n != count || e != api.OK {
 		t.Error("Count", n, count, e)
+	}
+	if b, ok, e := a.Differ(turned, second); b != apart || !ok || e != api.OK {
+		t.Error("Differ", b, apart, ok, e)
 	}
 	for range 40 {
 		if _, e = anyOf(a, vars, 6000, r); e != api.OK {

@@ -53,17 +53,7 @@ func (b *builder) numberOf(n node) int {
 
 func (b *builder) variable(f int) int { return b.arena.nodes[f].variable }
 
-// part is f where a variable is value; f hangs on none ahead of that one.
-func (b *builder) part(f, variable int, value bool) int {
-	n := b.arena.nodes[f]
-	if n.variable != variable {
-		return f
-	}
-	if value {
-		return n.high
-	}
-	return n.low
-}
+func (b *builder) part(f, variable int, value bool) int { return b.arena.part(f, variable, value) }
 
 func (b *builder) choose(c choice) int {
 	switch {

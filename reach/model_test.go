@@ -8,6 +8,7 @@ import (
 
 	"wireward/acl"
 	"wireward/api"
+	"wireward/bdd"
 	"wireward/fib"
 	"wireward/match"
 	"wireward/packet"
@@ -191,6 +192,20 @@ func byMemories(m *model, l []api.Packet, add func(api.Place, api.Packet)) {
 	}
 }
 
+// setOf is the set of a place, by codes, as an arena of its own has it.
+func setOf(t *testing.T, r *reach.Reach, at api.Place) func(code int) bool {
+	t.Helper()
+	a, _ := bdd.New(match.Vars, api.MaxNodes)
+	f, e := r.Set(a, at)
+	if e != api.OK {
+		t.Fatal(at, e)
+	}
+	return func(code int) bool {
+		in, _ := a.Eval(f, code)
+		return in
+	}
+}
+
 // same holds a Reach against a model: rounds, each packet, and how many, at
 // each place.
 func (m *model) same(t *testing.T, r *reach.Reach) {
@@ -202,9 +217,13 @@ func (m *model) same(t *testing.T, r *reach.Reach) {
 	for i := range m.n.Devices {
 		for port := range 4 {
 			at, count := api.Place{Device: i, Port: port}, 0
+			set := setOf(t, r, at)
 			for code, want := range m.round[i][port] {
 				if k := r.Round(at, l[code]); k != want {
 					t.Fatal(m.n, at, l[code], k, want)
+				}
+				if in := set(code); in != (want >= 0) {
+					t.Fatal(m.n, at, l[code], in, want)
 				}
 				if want >= 0 {
 					count++

@@ -9,6 +9,7 @@ import (
 	"testing"
 
 	"wireward/api"
+	"wireward/bdd"
 	"wireward/match"
 	"wireward/net"
 	"wireward/packet"
@@ -392,9 +393,47 @@ func TestWild(t *testing.T) {
 	}
 }
 
+// The set of a place in arenas with room and without, and with too few
+// variables; and of no such place.
+func TestSet(t *testing.T) {
+	r := fresh(t, readNet(t, chain("fire d\npermit * * 2 *\n")))
+	for most := 2; most <= 20; most++ {
+		a, _ := bdd.New(match.Vars, most)
+		f, e := r.Set(a, right)
+		// From 1 to 2: a node for each bit of both addresses.
+		if room := most >= 2+8; room != (e == api.OK) || !room && (f != 0 || e != api.ErrFull) {
+			t.Error(most, f, e)
+		}
+		if n, _ := a.Count(f); n != 64 && e == api.OK {
+			t.Error(most, n)
+		}
+	}
+	few, _ := bdd.New(match.Vars-1, api.MaxNodes)
+	if f, e := r.Set(few, right); f != 0 || e != api.ErrArg {
+		t.Error(f, e)
+	}
+	more, _ := bdd.New(match.Vars+1, api.MaxNodes)
+	f, e := r.Set(more, right)
+	if n, _ := more.Count(f); e != api.OK || n != 128 {
+		t.Error(f, e, n)
+	}
+	for _, device := range wild {
+		for _, port := range wild {
+			at := api.Place{Device: device, Port: port}
+			if f, e := r.Set(more, at); e != api.OK || (f == bdd.Never) != (r.Count(at) == 0) {
+				t.Error(at, f, e)
+			}
+		}
+	}
+}
+
 // P1: a Reach that New didn't make.
 func TestZero(t *testing.T) {
 	var r reach.Reach
+	a, _ := bdd.New(match.Vars, 2)
+	if f, e := r.Set(a, api.Place{}); f != bdd.Never || e != api.OK {
+		t.Error(f, e)
+	}
 	p, ok := r.First(api.Place{}, match.All())
 	if r.Rounds() != 0 || r.Round(api.Place{}, api.Packet{}) != -1 || r.Count(api.Place{}) != 0 || ok || p != (api.Packet{}) {
 		t.Error(r.Rounds(), r.Round(api.Place{}, api.Packet{}), r.Count(api.Place{}), p, ok)
